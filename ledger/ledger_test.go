@@ -535,6 +535,9 @@ func TestManyPackets(t *testing.T) { // P22.1: the other side tells all that cam
 		acks(t, "one more", l, just(2*n), n, []uint64{2 * n}, nil)
 	}
 	shows(t, "all", l, nil, 0, 2*many-2)
+	if len(l.open) > 0 {
+		t.Errorf("%d are kept", len(l.open))
+	}
 }
 
 func TestHandedIn(t *testing.T) { // DOC's rule 3
